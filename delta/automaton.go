@@ -39,7 +39,9 @@ func (m *automaton) extend(last int, label byte) int {
 		at = m.states[at].link
 	}
 	if at >= 0 {
-		m.states[whole].link = m.separate(at, label)
+		// Ahead of the assignment, since it may move the states.
+		link := m.separate(at, label)
+		m.states[whole].link = link
 	}
 	return whole
 }
